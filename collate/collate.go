@@ -58,18 +58,15 @@ func Encode(list []Record) ([]string, Errno, int) {
 
 // Decode answers the records of a file's blocks (P4).
 func Decode(blocks []string) ([]Record, Errno, int) {
-	var content []byte
+	var pieces []string
 	for i, block := range blocks {
 		piece, ok := unseal(block)
 		if !ok {
 			return nil, ErrSum, i
 		}
-		content = append(content, piece...)
+		pieces = append(pieces, piece)
 	}
-	if !allFullButLast(blocks) {
-		return nil, ErrData, len(blocks)
-	}
-	list, ok := readRecords(content)
+	list, ok := readRecords(pieces)
 	if !ok {
 		return nil, ErrData, len(blocks)
 	}
@@ -77,4 +74,16 @@ func Decode(blocks []string) ([]Record, Errno, int) {
 }
 
 // Sort puts a file's records in order, into a new file; it answers that (P5).
-func Sort(d *disk.Disk, in int, once bool) (int, Errno) { return 0, 0 }
+func Sort(d *disk.Disk, in int, once bool) (out int, e Errno) {
+	if d.May() < leastHeld {
+		return 0, ErrHold
+	}
+	s := sorter{store: store{disk: d, open: map[int]int{}}, once: once}
+	defer func() {
+		e = reasonOf(recover())
+		s.takeAway()
+	}()
+	out = s.sort(in)
+	s.handOver(out)
+	return out, OK
+}
