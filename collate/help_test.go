@@ -140,3 +140,13 @@ func wantNoSharing(t *testing.T, promise string, given []string, answered []stri
 		}
 	}
 }
+
+// wantEach: each of these answers was told so many times at least, else a test that goes through many cases says little.
+func wantEach(t *testing.T, told map[collate.Errno]int, least int, answers ...collate.Errno) {
+	t.Helper()
+	for _, e := range answers {
+		if told[e] < least {
+			t.Errorf("only %d cases with the answer %d", told[e], e)
+		}
+	}
+}

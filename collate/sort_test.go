@@ -387,9 +387,5 @@ func TestSortAnything(t *testing.T) {
 		}
 		told[wantAsDecode(t, blocks)]++
 	}
-	for _, e := range []collate.Errno{collate.OK, collate.ErrSum, collate.ErrData} {
-		if told[e] < 300 {
-			t.Errorf("only %d files with the answer %d", told[e], e)
-		}
-	}
+	wantEach(t, told, 300, collate.OK, collate.ErrSum, collate.ErrData)
 }
